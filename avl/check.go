@@ -1,6 +1,9 @@
 package avl
 
-import "arboretum/num"
+import (
+	"arboretum/num"
+	"arboretum/raise"
+)
 
 // Check tells whether all is as the chapter has it; of nil it isn't.
 func (p *Pool) Check() bool {
@@ -57,6 +60,6 @@ func (p *Pool) treeFits(t int) bool {
 func (p *Pool) sumFits(t int) bool {
 	s := p.slots[t]
 	below := num.Join(p.slots[s.left].sum, p.slots[s.right].sum)
-	all := num.Join(lifted(below, s.wait), num.One(s.weight))
+	all := num.Join(raise.Sum(below, s.wait), num.One(s.weight))
 	return s.sum == all && num.Fits(all.Min) && num.Fits(all.Max) && (s.wait == 0 || below.Count > 0)
 }

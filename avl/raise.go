@@ -3,27 +3,8 @@ package avl
 import (
 	"arboretum/api"
 	"arboretum/num"
+	"arboretum/raise"
 )
-
-// heavier answers w raised by by, for what is known to stay a weight: what waits was asked of every weight that it is for.
-func heavier(w, by int) int {
-	raised, _ := num.Add(w, by)
-	return raised
-}
-
-// lifted answers the sum s of weights, each raised by by. It is done by halves, since all items of a full pool, raised from one end of a weight to the
-// other at once, would come to a step past an int's end.
-func lifted(s api.Sum, by int) api.Sum {
-	half := by / 2
-	return num.Lift(num.Lift(s, half), by-half)
-}
-
-// canRise tells whether all weights of which s is the sum can be raised by by: if the least and the greatest one can, so can those between.
-func canRise(s api.Sum, by int) bool {
-	_, least := num.Add(s.Min, by)
-	_, greatest := num.Add(s.Max, by)
-	return least && greatest
-}
 
 // raise raises t's part, which may be none: at t at once, while for all below it that waits at t.
 func (p *Pool) raise(t, by int) {
@@ -31,8 +12,8 @@ func (p *Pool) raise(t, by int) {
 		return
 	}
 	s := &p.slots[t]
-	s.weight = heavier(s.weight, by)
-	s.sum = lifted(s.sum, by)
+	s.weight = raise.Weight(s.weight, by)
+	s.sum = raise.Sum(s.sum, by)
 	// Where nothing is below, nothing would ever take it away.
 	if s.height > 1 {
 		s.wait += by
@@ -73,7 +54,7 @@ func (p *Pool) sumOf(t, from, to int) api.Sum {
 	if to > here+1 {
 		all = num.Join(all, p.sumOf(s.right, from-here-1, to-here-1))
 	}
-	all = lifted(all, s.wait)
+	all = raise.Sum(all, s.wait)
 	if from <= here && to > here {
 		all = num.Join(all, num.One(s.weight))
 	}
@@ -96,7 +77,7 @@ func (p *Pool) raiseRange(t, from, to, by int) {
 		p.raiseRange(s.right, from-here-1, to-here-1, by)
 	}
 	if from <= here && to > here {
-		s.weight = heavier(s.weight, by)
+		s.weight = raise.Weight(s.weight, by)
 	}
 	p.gather(t)
 }

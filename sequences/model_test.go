@@ -1,4 +1,4 @@
-package avl
+package sequences
 
 import (
 	"math"
@@ -153,7 +153,7 @@ func (m *model) lift(a, b, by int) bool {
 }
 
 // wantItem holds all that is told of v against the model.
-func wantItem(t *testing.T, p *Pool, m *model, v int) {
+func wantItem(t *testing.T, p pool, m *model, v int) {
 	t.Helper()
 	if got, want := p.Has(v), m.has(v); got != want {
 		t.Fatalf("Has(%d): got %v, want %v", v, got, want)
@@ -178,7 +178,7 @@ func wantItem(t *testing.T, p *Pool, m *model, v int) {
 	}
 }
 
-func wantAt(t *testing.T, p *Pool, m *model, v, k int) {
+func wantAt(t *testing.T, p pool, m *model, v, k int) {
 	t.Helper()
 	if got, want := p.At(v, k), m.at(v, k); got != want {
 		t.Fatalf("At(%d, %d): got %d, want %d", v, k, got, want)
@@ -186,7 +186,7 @@ func wantAt(t *testing.T, p *Pool, m *model, v, k int) {
 }
 
 // wantPair holds all that is told of a and b against the model.
-func wantPair(t *testing.T, p *Pool, m *model, a, b int) {
+func wantPair(t *testing.T, p pool, m *model, a, b int) {
 	t.Helper()
 	if got, want := p.Same(a, b), m.same(a, b); got != want {
 		t.Fatalf("Same(%d, %d): got %v, want %v", a, b, got, want)
@@ -200,13 +200,13 @@ func wantPair(t *testing.T, p *Pool, m *model, a, b int) {
 // both is a pool and its model, to which the same is done.
 type both struct {
 	t *testing.T
-	p *Pool
+	p pool
 	m *model
 }
 
-func newBoth(t *testing.T, n int) *both {
+func newBoth(t *testing.T, k kind, n int) *both {
 	t.Helper()
-	p := New(n)
+	p := k.make(n)
 	if p == nil {
 		t.Fatalf("New(%d): got nil", n)
 	}
@@ -297,9 +297,9 @@ func (x *both) lift(a, b, by int, want bool) {
 }
 
 // row is one sequence of all n items, in their order, with room for none more.
-func row(t *testing.T, n int) *both {
+func row(t *testing.T, k kind, n int) *both {
 	t.Helper()
-	x := newBoth(t, n)
+	x := newBoth(t, k, n)
 	for v := range n {
 		x.add(v, 10*v-33, true)
 		if v > 0 {
@@ -310,9 +310,9 @@ func row(t *testing.T, n int) *both {
 }
 
 // mixed has two sequences and a gap: 3, 0, 5, 1, 4; 7, 2; 8 by itself; 6 isn't there, and 9 is past the end.
-func mixed(t *testing.T) *both {
+func mixed(t *testing.T, k kind) *both {
 	t.Helper()
-	x := newBoth(t, 9)
+	x := newBoth(t, k, 9)
 	for _, v := range []int{0, 1, 2, 3, 4, 5, 7, 8} {
 		x.add(v, 10*v-33, true)
 	}
