@@ -1,4 +1,4 @@
-package plain
+package forests
 
 import (
 	"math"
@@ -81,6 +81,16 @@ func (m *model) parent(v int) int {
 		return up[1]
 	}
 	return -1
+}
+
+// lowest is the first node without kids that is found below v.
+func (m *model) lowest(v int) int {
+	for u := range m.there {
+		if m.parent(u) == v {
+			return m.lowest(u)
+		}
+	}
+	return v
 }
 
 func (m *model) add(v, w int) bool {
@@ -204,7 +214,7 @@ func (m *model) size(v int) int {
 }
 
 // wantNode holds all that is told of v against the model.
-func wantNode(t *testing.T, f *Forest, m *model, v int) {
+func wantNode(t *testing.T, f forest, m *model, v int) {
 	t.Helper()
 	if got, want := f.Has(v), m.has(v); got != want {
 		t.Fatalf("Has(%d): got %v, want %v", v, got, want)
@@ -232,7 +242,7 @@ func wantNode(t *testing.T, f *Forest, m *model, v int) {
 }
 
 // wantPair holds all that is told of a and b against the model.
-func wantPair(t *testing.T, f *Forest, m *model, a, b int) {
+func wantPair(t *testing.T, f forest, m *model, a, b int) {
 	t.Helper()
 	if got, want := f.Same(a, b), m.way(a, b) != nil; got != want {
 		t.Fatalf("Same(%d, %d): got %v, want %v", a, b, got, want)
@@ -247,7 +257,7 @@ func wantPair(t *testing.T, f *Forest, m *model, a, b int) {
 }
 
 // wantAll holds all that a forest tells against the model, of nodes past its ends too.
-func wantAll(t *testing.T, f *Forest, m *model) {
+func wantAll(t *testing.T, f forest, m *model) {
 	t.Helper()
 	if !f.Check() {
 		t.Fatalf("Check: got false of %+v", f)
@@ -270,13 +280,13 @@ func wantAll(t *testing.T, f *Forest, m *model) {
 // both is a forest and its model, to which the same is done.
 type both struct {
 	t *testing.T
-	f *Forest
+	f forest
 	m *model
 }
 
-func newBoth(t *testing.T, n int) *both {
+func newBoth(t *testing.T, k kind, n int) *both {
 	t.Helper()
-	f := New(n)
+	f := k.make(n)
 	if f == nil {
 		t.Fatalf("New(%d): got nil", n)
 	}
@@ -334,9 +344,9 @@ func (x *both) same() {
 }
 
 // grown is a forest of two trees and a gap: 1 and 2 below 0, 3 and 4 below 1, 5 below 3; 7 below 6; 8 isn't there, 9 is a root alone.
-func grown(t *testing.T) *both {
+func grown(t *testing.T, k kind) *both {
 	t.Helper()
-	x := newBoth(t, 10)
+	x := newBoth(t, k, 10)
 	for _, v := range []int{0, 1, 2, 3, 4, 5, 6, 7, 9} {
 		x.add(v, 10*v-3, true)
 	}
