@@ -1,4 +1,4 @@
-// Package forests tests layers 5 and 8 side by side: what is promised of the one is promised of the other, word by word.
+// Package forests tests layers 5, 8 and 9 side by side: what is promised of the first is promised of the others, word by word.
 package forests
 
 import (
@@ -7,6 +7,7 @@ import (
 	"arboretum/api"
 	"arboretum/link"
 	"arboretum/plain"
+	"arboretum/tour"
 )
 
 // forest is what all kinds have.
@@ -50,7 +51,19 @@ func kinds() []kind {
 			}
 			return nil
 		}, (*link.Forest)(nil)},
+		tours("tour, avl", api.Avl),
+		tours("tour, btree", api.Btree),
 	}
+}
+
+// tours is a kind of layer 9, in sequences of this kind.
+func tours(name string, sequences int) kind {
+	return kind{name, func(n int) forest {
+		if f := tour.New(sequences, n); f != nil {
+			return f
+		}
+		return nil
+	}, (*tour.Forest)(nil)}
 }
 
 // each runs a test of every kind.
