@@ -22,7 +22,7 @@ func noWeights() []int {
 	return []int{end + 1, -end - 1, step, -step, 1 << 62, -1 << 62, math.MaxInt, math.MinInt}
 }
 
-// P5.1, P8.1, P9.1: New, at each end of what it takes.
+// P5.1, P8.1, P9.1, P10.1: New, at each end of what it takes.
 func TestNew(t *testing.T) {
 	each(t, func(t *testing.T, k kind) {
 		for _, n := range []int{0, 1, 2, 1000, most - 1, most} {
@@ -53,7 +53,7 @@ func TestNew(t *testing.T) {
 	})
 }
 
-// P5.1, P8.1, P9.1: a forest with room for nothing refuses all.
+// P5.1, P8.1, P9.1, P10.1: a forest with room for nothing refuses all.
 func TestNoRoom(t *testing.T) {
 	each(t, func(t *testing.T, k kind) {
 		x := newBoth(t, k, 0)
@@ -62,7 +62,7 @@ func TestNoRoom(t *testing.T) {
 	})
 }
 
-// P5.1, P8.1, P9.1: the chapter's example.
+// P5.1, P8.1, P9.1, P10.1: the chapter's example.
 func TestExample(t *testing.T) {
 	each(t, func(t *testing.T, k kind) {
 		f := k.make(3)
@@ -82,7 +82,7 @@ func TestExample(t *testing.T) {
 	})
 }
 
-// P5.1, P8.1, P9.1: each answer, written out by hand.
+// P5.1, P8.1, P9.1, P10.1: each answer, written out by hand.
 func TestByHand(t *testing.T) {
 	each(t, func(t *testing.T, k kind) {
 		f := grown(t, k).f
@@ -116,7 +116,7 @@ func TestByHand(t *testing.T) {
 	})
 }
 
-// P5.1, P8.1, P9.1: numbers that are no nodes are refused by every call, and nothing is changed.
+// P5.1, P8.1, P9.1, P10.1: numbers that are no nodes are refused by every call, and nothing is changed.
 func TestNoNode(t *testing.T) {
 	each(t, func(t *testing.T, k kind) {
 		x := grown(t, k)
@@ -144,7 +144,7 @@ func TestNoNode(t *testing.T) {
 	})
 }
 
-// P5.1, P8.1, P9.1: the first and the last node are nodes as others are.
+// P5.1, P8.1, P9.1, P10.1: the first and the last node are nodes as others are.
 func TestFirstAndLast(t *testing.T) {
 	each(t, func(t *testing.T, k kind) {
 		for _, n := range []int{1, 2, 3, 17} {
@@ -170,7 +170,7 @@ func TestFirstAndLast(t *testing.T) {
 	})
 }
 
-// P5.1, P8.1, P9.1: Add refuses what is there and what is no weight, and leaves all as it was.
+// P5.1, P8.1, P9.1, P10.1: Add refuses what is there and what is no weight, and leaves all as it was.
 func TestAddRefused(t *testing.T) {
 	each(t, func(t *testing.T, k kind) {
 		x := grown(t, k)
@@ -188,7 +188,7 @@ func TestAddRefused(t *testing.T) {
 	})
 }
 
-// P5.1, P8.1, P9.1: weights at their ends are taken, one past them are not, by Add and Set.
+// P5.1, P8.1, P9.1, P10.1: weights at their ends are taken, one past them are not, by Add and Set.
 func TestWeights(t *testing.T) {
 	each(t, func(t *testing.T, k kind) {
 		x := newBoth(t, k, 4)
@@ -209,7 +209,7 @@ func TestWeights(t *testing.T) {
 	})
 }
 
-// P5.1, P8.1, P9.1: Drop takes a root alone; one with a parent, or with kids, stays.
+// P5.1, P8.1, P9.1, P10.1: Drop takes a root alone; one with a parent, or with kids, stays.
 func TestDrop(t *testing.T) {
 	each(t, func(t *testing.T, k kind) {
 		x := grown(t, k)
@@ -231,7 +231,7 @@ func TestDrop(t *testing.T) {
 	})
 }
 
-// P5.1, P8.1, P9.1: a node that goes comes again alone, with another weight.
+// P5.1, P8.1, P9.1, P10.1: a node that goes comes again alone, with another weight.
 func TestComesAgain(t *testing.T) {
 	each(t, func(t *testing.T, k kind) {
 		x := grown(t, k)
@@ -253,7 +253,7 @@ func TestComesAgain(t *testing.T) {
 	})
 }
 
-// P5.1, P8.1, P9.1: Link refuses one that has a parent, itself, one below itself, and its own tree.
+// P5.1, P8.1, P9.1, P10.1: Link refuses one that has a parent, itself, one below itself, and its own tree.
 func TestLinkRefused(t *testing.T) {
 	each(t, func(t *testing.T, k kind) {
 		x := grown(t, k)
@@ -275,7 +275,7 @@ func TestLinkRefused(t *testing.T) {
 	})
 }
 
-// P5.1, P8.1, P9.1: Cut refuses a root, and what isn't there; a node that was cut off is one.
+// P5.1, P8.1, P9.1, P10.1: Cut refuses a root, and what isn't there; a node that was cut off is one.
 func TestCut(t *testing.T) {
 	each(t, func(t *testing.T, k kind) {
 		x := grown(t, k)
@@ -291,7 +291,7 @@ func TestCut(t *testing.T) {
 	})
 }
 
-// P5.1, P8.1, P9.1: Evert turns the way up round, and leaves the rest of the tree alone; again, it changes nothing.
+// P5.1, P8.1, P9.1, P10.1: Evert turns the way up round, and leaves the rest of the tree alone; again, it changes nothing.
 func TestEvert(t *testing.T) {
 	each(t, func(t *testing.T, k kind) {
 		x := grown(t, k)
@@ -309,7 +309,7 @@ func TestEvert(t *testing.T) {
 	})
 }
 
-// P5.1, P8.1, P9.1: a node that is cut off and linked where it was leaves all as it was; linked elsewhere, its subtree goes with it.
+// P5.1, P8.1, P9.1, P10.1: a node that is cut off and linked where it was leaves all as it was; linked elsewhere, its subtree goes with it.
 func TestCutAndBack(t *testing.T) {
 	each(t, func(t *testing.T, k kind) {
 		x := grown(t, k)
@@ -327,7 +327,7 @@ func TestCutAndBack(t *testing.T) {
 	})
 }
 
-// P5.1, P8.1, P9.1: a way of one node.
+// P5.1, P8.1, P9.1, P10.1: a way of one node.
 func TestWayOfOne(t *testing.T) {
 	each(t, func(t *testing.T, k kind) {
 		x := grown(t, k)
@@ -349,7 +349,7 @@ func TestWayOfOne(t *testing.T) {
 	})
 }
 
-// P5.1, P8.1, P9.1: nodes of two trees have no way, and nothing is raised.
+// P5.1, P8.1, P9.1, P10.1: nodes of two trees have no way, and nothing is raised.
 func TestNoWay(t *testing.T) {
 	each(t, func(t *testing.T, k kind) {
 		x := grown(t, k)
@@ -365,7 +365,7 @@ func TestNoWay(t *testing.T) {
 	})
 }
 
-// P5.1, P8.1, P9.1: where one weight of a way can't be raised, none is: wherever on the way it is, and to whichever end.
+// P5.1, P8.1, P9.1, P10.1: where one weight of a way can't be raised, none is: wherever on the way it is, and to whichever end.
 func TestPathAddAllOrNone(t *testing.T) {
 	each(t, func(t *testing.T, k kind) {
 		way := []int{5, 3, 1, 0, 2}
@@ -393,7 +393,7 @@ func TestPathAddAllOrNone(t *testing.T) {
 	})
 }
 
-// P5.1, P8.1, P9.1: by how much a way may be raised, at its ends and past them.
+// P5.1, P8.1, P9.1, P10.1: by how much a way may be raised, at its ends and past them.
 func TestPathAddBy(t *testing.T) {
 	each(t, func(t *testing.T, k kind) {
 		x := newBoth(t, k, 3)
@@ -419,7 +419,7 @@ func TestPathAddBy(t *testing.T) {
 	})
 }
 
-// P5.1, P8.1, P9.1: a way is raised, then turned round, cut, linked and asked: what was raised goes with its nodes alone.
+// P5.1, P8.1, P9.1, P10.1: a way is raised, then turned round, cut, linked and asked: what was raised goes with its nodes alone.
 func TestRaisedThenChanged(t *testing.T) {
 	each(t, func(t *testing.T, k kind) {
 		const n = 20
@@ -447,7 +447,7 @@ func TestRaisedThenChanged(t *testing.T) {
 	})
 }
 
-// P5.1, P8.1, P9.1: what is raised again and again, from end to end, while the tree is turned round.
+// P5.1, P8.1, P9.1, P10.1: what is raised again and again, from end to end, while the tree is turned round.
 func TestRaisedFromEndToEnd(t *testing.T) {
 	each(t, func(t *testing.T, k kind) {
 		const n = 12
@@ -471,7 +471,7 @@ func TestRaisedFromEndToEnd(t *testing.T) {
 	})
 }
 
-// P5.1, P8.1, P9.1: on a nil forest nothing is there, and nothing is done: every method.
+// P5.1, P8.1, P9.1, P10.1: on a nil forest nothing is there, and nothing is done: every method.
 func TestNil(t *testing.T) {
 	each(t, func(t *testing.T, k kind) {
 		f := k.none
@@ -516,7 +516,7 @@ func TestApart(t *testing.T) {
 	})
 }
 
-// P10, P5.1, P8.1, P9.1: a forest with all its nodes, each weight at its end: a line, then a star.
+// P10, P5.1, P8.1, P9.1, P10.1: a forest with all its nodes, each weight at its end: a line, then a star.
 func TestFull(t *testing.T) {
 	each(t, func(t *testing.T, k kind) {
 		f := k.make(most)
@@ -570,7 +570,7 @@ func TestFull(t *testing.T) {
 	})
 }
 
-// P5.1, P5.2, P8.1, P8.2, P9.1, P9.2: a line and a star of which every node is made the root.
+// P5.1, P5.2, P8.1, P8.2, P9.1, P9.2, P10.1, P10.2: a line and a star of which every node is made the root.
 func TestLineAndStar(t *testing.T) {
 	each(t, func(t *testing.T, k kind) {
 		const n = 40
@@ -599,7 +599,7 @@ func TestLineAndStar(t *testing.T) {
 	})
 }
 
-// P5.1, P5.2, P8.1, P8.2, P9.1, P9.2: a long line, made the root at either end in turn, and between them.
+// P5.1, P5.2, P8.1, P8.2, P9.1, P9.2, P10.1, P10.2: a long line, made the root at either end in turn, and between them.
 func TestLongLine(t *testing.T) {
 	each(t, func(t *testing.T, k kind) {
 		const n = 3000
@@ -644,7 +644,7 @@ func TestLongLine(t *testing.T) {
 	})
 }
 
-// P5.2, P8.2, P9.2: made the root, a node leaves its tree the same nodes, weights and ways.
+// P5.2, P8.2, P9.2, P10.2: made the root, a node leaves its tree the same nodes, weights and ways.
 func TestEvertLeaves(t *testing.T) {
 	each(t, func(t *testing.T, k kind) {
 		r := rand.New(rand.NewSource(52))
@@ -664,7 +664,7 @@ func TestEvertLeaves(t *testing.T) {
 	})
 }
 
-// P5.1, P8.1, P9.1: what is done is undone: an evert by one of the root before, a link by a cut, a raise by a raise the other way.
+// P5.1, P8.1, P9.1, P10.1: what is done is undone: an evert by one of the root before, a link by a cut, a raise by a raise the other way.
 func TestUndone(t *testing.T) {
 	each(t, func(t *testing.T, k kind) {
 		const n = 12
@@ -690,7 +690,7 @@ func TestUndone(t *testing.T) {
 	})
 }
 
-// P5.2, P8.2, P9.2: what is cut off takes just its subtree with it.
+// P5.2, P8.2, P9.2, P10.2: what is cut off takes just its subtree with it.
 func TestCutTakes(t *testing.T) {
 	each(t, func(t *testing.T, k kind) {
 		r := rand.New(rand.NewSource(53))
@@ -796,7 +796,7 @@ func change(t *testing.T, r *rand.Rand, x *both) {
 	}
 }
 
-// P5.1, P5.2, P8.1, P8.2, P9.1, P9.2: short runs in small forests, all that is told looked at behind each step.
+// P5.1, P5.2, P8.1, P8.2, P9.1, P9.2, P10.1, P10.2: short runs in small forests, all that is told looked at behind each step.
 func TestRuns(t *testing.T) {
 	each(t, func(t *testing.T, k kind) {
 		r := rand.New(rand.NewSource(5))
@@ -810,7 +810,7 @@ func TestRuns(t *testing.T) {
 	})
 }
 
-// P5.1, P5.2, P8.1, P8.2, P9.1, P9.2: a long run in a greater one, looked at now and then.
+// P5.1, P5.2, P8.1, P8.2, P9.1, P9.2, P10.1, P10.2: a long run in a greater one, looked at now and then.
 func TestLongRun(t *testing.T) {
 	each(t, func(t *testing.T, k kind) {
 		r := rand.New(rand.NewSource(51))
@@ -893,7 +893,7 @@ func askBoth(t *testing.T, r *rand.Rand, f, plain forest, n, steps int) {
 	}
 }
 
-// P5.1, P5.2, P8.1, P8.2, P9.1, P9.2: each kind beside the plain one, asked and changed by turns, so that whatever a question leaves behind meets every other call.
+// P5.1, P5.2, P8.1, P8.2, P9.1, P9.2, P10.1, P10.2: each kind beside the plain one, asked and changed by turns, so that whatever a question leaves behind meets every other call.
 func TestBesidePlain(t *testing.T) {
 	each(t, func(t *testing.T, k kind) {
 		r := rand.New(rand.NewSource(58))
@@ -905,7 +905,7 @@ func TestBesidePlain(t *testing.T) {
 	})
 }
 
-// P5.1, P5.2, P8.1, P8.2, P9.1, P9.2: as above, from a long line on.
+// P5.1, P5.2, P8.1, P8.2, P9.1, P9.2, P10.1, P10.2: as above, from a long line on.
 func TestBesidePlainLine(t *testing.T) {
 	each(t, func(t *testing.T, k kind) {
 		r := rand.New(rand.NewSource(59))

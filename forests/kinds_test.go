@@ -1,10 +1,11 @@
-// Package forests tests layers 5, 8 and 9 side by side: what is promised of the first is promised of the others, word by word.
+// Package forests tests layers 5 and 8 to 10 side by side: what is promised of the first is promised of the others, word by word.
 package forests
 
 import (
 	"testing"
 
 	"arboretum/api"
+	"arboretum/heavy"
 	"arboretum/link"
 	"arboretum/plain"
 	"arboretum/tour"
@@ -53,6 +54,12 @@ func kinds() []kind {
 		}, (*link.Forest)(nil)},
 		tours("tour, avl", api.Avl),
 		tours("tour, btree", api.Btree),
+		{"heavy", func(n int) forest {
+			if f := heavy.New(n); f != nil {
+				return f
+			}
+			return nil
+		}, (*heavy.Forest)(nil)},
 	}
 }
 
